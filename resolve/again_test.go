@@ -205,13 +205,18 @@ func someError(deep int) error {
 	if deep == 0 || draws.IntN(6) == 0 {
 		return some[error](nil, errors.New("x"), number(3), api.Errno(draws.IntN(20)), says{7}, plain{}, denies{})
 	}
-	switch draws.IntN(5) {
+	switch draws.IntN(6) {
 	case 0:
 		return &resolve.Why{Name: "a", Err: someError(deep - 1)}
 	case 1:
 		return around{someError(deep - 1)}
 	case 2:
 		return denies{someError(deep - 1)}
+	case 3:
+		return some[error](
+			insists{says{api.Errno(draws.IntN(20))}, around{someError(deep - 1)}},
+			saysAll{draws.IntN(2) == 0, says{8}, several{[]error{someError(deep - 1), someError(deep - 1)}}},
+		)
 	}
 	var l []error
 	for range draws.IntN(5) {

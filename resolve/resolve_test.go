@@ -5,6 +5,7 @@ import (
 	"fmt"
 	"io"
 	"reflect"
+	"slices"
 	"testing"
 
 	"nomenclator/addr"
@@ -397,10 +398,19 @@ func TestWhy(t *testing.T) {
 
 // Errors of all kinds that there may be.
 type (
-	panics  struct{}                  // whatever it is asked
-	plain   struct{ l []error }       // that can't be held against another one
-	says    struct{ n api.Errno }     // it says which number it is
-	denies  struct{ err error }       // it says that it is none, and is around one
+	panics  struct{}              // whatever it is asked
+	plain   struct{ l []error }   // that can't be held against another one
+	says    struct{ n api.Errno } // it says which number it is
+	denies  struct{ err error }   // it says that it is none, and is around one
+	insists struct {              // it says which number it is, and is around one
+		says
+		around
+	}
+	saysAll struct { // it says whether it is a number, and is around more than one
+		is bool
+		says
+		several
+	}
 	around  struct{ err error }       // one
 	several struct{ l []error }       // more than one
 	number  int                       // a number of another type
@@ -431,6 +441,12 @@ func (x rounds) Unwrap() []error {
 		l[i] = x
 	}
 	return l
+}
+
+func (insists) Error() string { return "" }
+func (saysAll) Error() string { return "" }
+func (x saysAll) As(target any) bool {
+	return x.is && x.says.As(target)
 }
 
 func (x says) As(target any) bool {
@@ -479,7 +495,10 @@ func TestNumber(t *testing.T) {
 		{"one that says so", says{api.ErrLink}, api.ErrLink},
 		{"one that says so, within", around{several{[]error{other, says{api.ErrLink}, api.ErrMsg}}}, api.ErrLink},
 		{"one that says that it is none", denies{other}, api.ErrArg},
-		{"one that says so, and is around one", denies{around{api.ErrMsg}}, api.ErrMsg},
+		{"one that says that it is none, and is around one", denies{around{api.ErrMsg}}, api.ErrMsg},
+		{"one that says so, and is around one", insists{says{api.ErrLink}, around{api.ErrMsg}}, api.ErrLink},
+		{"one that says so, and is around several", saysAll{true, says{api.ErrLink}, several{[]error{api.ErrMsg}}}, api.ErrLink},
+		{"one that says that it is none, and is around several", saysAll{false, says{}, several{[]error{nil, api.ErrMsg}}}, api.ErrMsg},
 	} {
 		if got := resolve.Number(c.err); got != c.want {
 			t.Errorf("%s: Number = %d, not %d", c.what, got, c.want)
@@ -495,28 +514,94 @@ func TestNumberLeavesLists(t *testing.T) {
 	}
 }
 
-// Errors that panic, or go round, have no number; nor does one end the program that is very deep.
-func TestNumberEnds(t *testing.T) {
-	one := &round{}
-	one.to = around{one}
-	for _, err := range []error{panics{}, around{panics{}}, (*resolve.Why)(nil), one, rounds{times: 1}, rounds{times: 2}, rounds{times: 1000}, several{[]error{one, api.ErrMsg}}} {
+// Errors that panic have no number.
+func TestNumberOfPanics(t *testing.T) {
+	for _, err := range []error{panics{}, around{panics{}}, several{[]error{panics{}, api.ErrMsg}}, (*resolve.Why)(nil)} {
 		if got := resolve.Number(err); got != api.ErrArg {
 			t.Errorf("Number(%T) = %d", err, got)
 		}
 	}
-	var one1 error = api.ErrTime
-	two := one1
-	for range 1000000 {
-		one1, two = &resolve.Why{Name: "a", Err: one1}, several{[]error{two}}
+}
+
+// A vast one is of many, the first of them itself.
+type vast struct{ n int }
+
+func (*vast) Error() string { return "" }
+func (x *vast) Unwrap() []error {
+	l := make([]error, x.n)
+	l[0] = x
+	return l
+}
+
+// Nor have those that go round: errors.As wouldn't end.
+func TestNumberEnds(t *testing.T) {
+	one, ring := &round{}, make([]error, 2)
+	one.to = around{one}
+	ring[0], ring[1] = several{ring}, api.ErrMsg
+	for what, err := range map[string]error{
+		"an error around itself, and a number": several{[]error{one, api.ErrMsg}},
+		"errors among which they are":          several{ring},
+		"an error of one that is always anew":  rounds{times: 1},
+		"an error of many, the first itself":   &vast{n: 1 << 22},
+	} {
+		t.Run(what, func(t *testing.T) {
+			t.Parallel() // each takes some seconds
+			if got := resolve.Number(err); got != api.ErrArg {
+				t.Errorf("Number = %d", got)
+			}
+		})
 	}
-	if resolve.Number(one1) != api.ErrTime || resolve.Number(two) != api.ErrTime {
-		t.Error("a number that is very deep isn't found")
+}
+
+// A countdown is around one that is nearer the end, where there is a number.
+type countdown struct{ left int }
+
+func (countdown) Error() string { return "" }
+func (x countdown) Unwrap() error {
+	if x.left == 0 {
+		return api.ErrLong
 	}
-	wide := make([]error, 1000000)
+	return countdown{left: x.left - 1}
+}
+
+// However deep a number is, and among however many others, it is found.
+func TestNumberFar(t *testing.T) {
+	other := errors.New("x")
+	wrapped, joined, one, alike := error(api.ErrTime), error(api.ErrTime), error(api.ErrTime), other
+	for range 1<<22 + 1 {
+		wrapped = &resolve.Why{Name: "a", Err: wrapped}
+	}
+	for range 1 << 20 {
+		joined = several{[]error{joined, other}}
+		one = several{[]error{one}}
+	}
+	for range 24 {
+		alike = several{[]error{alike, alike}}
+	}
+	wide := make([]error, 1<<24+1)
 	for i := range wide {
-		wide[i] = io.EOF
+		wide[i] = other
 	}
-	if got := resolve.Number(several{append(wide, api.ErrMsg)}); got != api.ErrMsg {
-		t.Errorf("a number behind many others: %d", got)
+	last := slices.Clone(wide)
+	wide[0], last[1<<24] = api.ErrTime, api.ErrTime
+	for _, c := range []struct {
+		what string
+		err  error
+		want api.Errno
+	}{
+		{"deep within others", wrapped, api.ErrTime},
+		{"very deep within others", countdown{left: 1 << 26}, api.ErrLong},
+		{"first of many", several{wide}, api.ErrTime},
+		{"first of many, joined", errors.Join(wide...), api.ErrTime},
+		{"last of many", several{last}, api.ErrTime},
+		{"deep within lists", joined, api.ErrTime},
+		{"deep within lists of one", one, api.ErrTime},
+		{"behind lists that are asked again and again", several{[]error{alike, api.ErrTime}}, api.ErrTime},
+		{"behind many lists", several{append(slices.Repeat([]error{several{wide[1:]}}, 9), several{[]error{several{last}}})}, api.ErrTime},
+		{"nowhere", several{[]error{alike, several{wide[1:]}}}, api.ErrArg},
+	} {
+		if got := resolve.Number(c.err); got != c.want {
+			t.Errorf("%s: Number = %d, not %d", c.what, got, c.want)
+		}
 	}
 }
